@@ -562,6 +562,7 @@ func made(t testing.TB, r *Tree, f *page.File, n, greatest int) int {
 
 // 11.1, 11.2: trees that grow and shrink key by key, of all kinds of keys, in all kinds of orders.
 func TestGrowAndShrink(t *testing.T) {
+	t.Parallel()
 	const n = 100
 	for style, key := range styles {
 		for kind := range 16 {
@@ -597,6 +598,7 @@ func TestGrowAndShrink(t *testing.T) {
 
 // 11.2: a great tree of the greatest keys, and what is left of it when most are gone, whichever these are.
 func TestGreat(t *testing.T) {
+	t.Parallel()
 	for style := range 3 {
 		key := styles[style]
 		d := sect.New(api.MaxSects)
@@ -646,6 +648,7 @@ func TestGreat(t *testing.T) {
 
 // 11.2: in trees that are mixed for long, no bound is broken.
 func TestMixed(t *testing.T) {
+	t.Parallel()
 	for style, key := range styles {
 		d := sect.New(20000)
 		r, f := open(t, d)
@@ -1049,6 +1052,7 @@ func universe(most int) []string {
 
 // 11.1, 11.2: trees that were made by hand are opened just where they are such; and they go on as any other: what Put and Delete make of them is opened again, and a Commit writes no more than it may.
 func TestByHand(t *testing.T) {
+	t.Parallel()
 	rnd := rand.New(rand.NewSource(5))
 	count := map[bool]int{}
 	for i := range 2100 {
@@ -1184,6 +1188,7 @@ func device(t testing.TB, most, taken int) *sect.Dev {
 
 // 11.1, W4: what has no room changes nothing: neither the map, nor what is in use; with room it goes well.
 func TestFull(t *testing.T) {
+	t.Parallel()
 	full := 0
 	for style := range 4 {
 		key := styles[style]
@@ -1395,6 +1400,7 @@ func rounds(t testing.TB, r *Tree, m map[string]string, n, salt int) (sure, more
 
 // 11.3, W3: a crash at any call, with any sectors lost or bad, leaves the map of the last Commit that went well, or of the one that was going on. From there it goes on, and may fall again.
 func TestCrash(t *testing.T) {
+	t.Parallel()
 	which := map[bool]int{}
 	back := func(d *sect.Dev, sure, more map[string]string, where ...any) (*Tree, map[string]string) {
 		r, f := open(t, d)
@@ -1708,6 +1714,7 @@ func run(t testing.TB, b []byte) {
 
 // 11.1 to 11.4: long rows of calls, right and wrong, on devices with much room and with little, with crashes.
 func TestRuns(t *testing.T) {
+	t.Parallel()
 	rnd := rand.New(rand.NewSource(17))
 	for range 400 {
 		b := make([]byte, 700)
@@ -1755,6 +1762,7 @@ func opens(t testing.TB, b []byte) bool {
 }
 
 func TestAnyPages(t *testing.T) {
+	t.Parallel()
 	rnd := rand.New(rand.NewSource(19))
 	good := 0
 	for range 20000 {
